@@ -105,6 +105,7 @@ func definedMerge(v, patch json.Value) json.Value {
 
 // P6.5: random values with random patches, by the definition; With and Without as such patches.
 func TestMergeRandom(t *testing.T) {
+	t.Parallel()
 	random := rand.New(rand.NewSource(8))
 	objects := 0
 	for range 20000 {
@@ -150,6 +151,7 @@ func TestAlike(t *testing.T) {
 // P6.5: random values, alike to themselves with other orders of the members, and to others only if their sorted
 // plain texts are the same.
 func TestAlikeRandom(t *testing.T) {
+	t.Parallel()
 	random := rand.New(rand.NewSource(9))
 	moved := 0
 	for range 5000 {
@@ -204,6 +206,7 @@ func reordered(v json.Value, order func([]json.Member)) json.Value {
 
 // P6.5, P1: objects of many members are changed in no more than a little time.
 func TestManyMembers(t *testing.T) {
+	t.Parallel()
 	const many = 200000
 	var all, later, nulls []json.Member
 	for i := range many {

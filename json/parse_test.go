@@ -126,6 +126,7 @@ func checkNumber(t *testing.T, s string) {
 
 // P6.1, P6.2: all short strings of the bytes of numbers and of a few others.
 func TestShortNumbers(t *testing.T) {
+	t.Parallel()
 	forShort("-01.eE+x", 5, func(s string) {
 		checkDefined(t, s, 1)
 		want := numberText.MatchString(s)
@@ -523,6 +524,7 @@ func TestNothingAndMore(t *testing.T) {
 
 // P6.1: texts cut off after each of their bytes, and with each byte replaced by others.
 func TestCutOff(t *testing.T) {
+	t.Parallel()
 	for _, s := range []string{
 		strings.Join(spaced, ""), strings.Join(spaced, " "), `{ "a" : [1, -0.5e3, "\u00e9\n"] }`, `[[[{"a":{"b":[1.5E+7]}}]]]`, `"aé€😀\u00e9\ud83d\ude00\\\"\/\b\f\n\r\t"`, `{"a":1,"b":{"a":2,"c":[]},"c":{}}`, ` [ true , false , null ] `, `{"\ud83d\ude00":"\ud83d","x":1}`, `{"a":1,"\u0061":2,"b":[[[[[[]]]]]]}`, `[[[[[[[1]]]]]]]`,
 	} {
@@ -546,6 +548,7 @@ func TestCutOff(t *testing.T) {
 
 // P6.1: all short texts of the bytes that matter.
 func TestShortTexts(t *testing.T) {
+	t.Parallel()
 	forShort(`[]{},:"1\`, 5, func(s string) { checkDefined(t, s, 2) })
 	forShort(`[]{},:"a`, 3, func(s string) { checkDefined(t, `{"a":1,`+s, 2) })
 	forShort(`"\ud80c`, 4, func(s string) { checkDefined(t, `"\ud800\u`+s, 2) })
@@ -554,6 +557,7 @@ func TestShortTexts(t *testing.T) {
 
 // P6.1: random texts, right ones and such as are changed somewhere, by the definition.
 func TestRandomTexts(t *testing.T) {
+	t.Parallel()
 	random := rand.New(rand.NewSource(6))
 	met := map[api.Errno]int{}
 	for range 30000 {

@@ -150,6 +150,7 @@ func TestPretty(t *testing.T) {
 
 // P6.2, P6.4: random values are printed as defined, and read again.
 func TestRandomValues(t *testing.T) {
+	t.Parallel()
 	random := rand.New(rand.NewSource(7))
 	for range 5000 {
 		v := randomValue(random, 6)
